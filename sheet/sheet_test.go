@@ -24,18 +24,20 @@ func TestName(t *testing.T) {
 	}
 }
 
-// P1.1: parts, indices, errors, and which one comes first.
-func TestCheck(t *testing.T) {
-	big, small := math.MaxInt, math.MinInt
-	cases := []struct {
-		what     string
-		change   func(s *api.ShSheet)
-		part, at int
-		e        api.Errno
-	}{
+// fault is a change of the sample, and what Check says of it.
+type fault struct {
+	what     string
+	change   func(s *api.ShSheet)
+	part, at int
+	e        api.Errno
+}
+
+// sheetFaults are those of intervals and points.
+func sheetFaults() []fault {
+	return []fault{
 		{"the sample", func(s *api.ShSheet) {}, 0, 0, api.OK},
 		{"no interval", func(s *api.ShSheet) { s.Interval = 0 }, 1, 0, api.ErrRange},
-		{"an interval below 0", func(s *api.ShSheet) { s.Interval = small }, 1, 0, api.ErrRange},
+		{"an interval below 0", func(s *api.ShSheet) { s.Interval = math.MinInt }, 1, 0, api.ErrRange},
 		{"a great interval", func(s *api.ShSheet) { s.Interval, s.Points, s.Notes = 1001, nil, nil }, 1, 0, api.ErrRange},
 		{"the greatest interval", func(s *api.ShSheet) { s.Interval, s.Notes[1].By = 1000, span(8, 9) }, 0, 0, api.OK},
 		{"the least interval", func(s *api.ShSheet) { s.Interval, s.Notes[1].By = 1, span(8999, 9000) }, 0, 0, api.OK},
@@ -49,6 +51,13 @@ func TestCheck(t *testing.T) {
 		{"the last one twice", func(s *api.ShSheet) { s.Points[3] = "mere" }, 2, 3, api.ErrTwice},
 		{"no name twice", func(s *api.ShSheet) { s.Points[2], s.Points[3] = "-", "-" }, 2, 2, api.ErrForm},
 		{"points before notes", func(s *api.ShSheet) { s.Points[3], s.Notes = "tor", make([]api.ShNote, 13) }, 2, 3, api.ErrTwice},
+	}
+}
+
+// noteFaults are those of notes.
+func noteFaults() []fault {
+	big, small := math.MaxInt, math.MinInt
+	return []fault{
 		{"13 notes, all wrong", func(s *api.ShSheet) { s.Notes = make([]api.ShNote, 13) }, 3, 0, api.ErrLong},
 		{"12 notes", func(s *api.ShSheet) { s.Notes = slices.Repeat(s.Notes, 3) }, 0, 0, api.OK},
 		{"a kind of 0", func(s *api.ShSheet) { s.Notes[2] = api.ShNote{A: -1} }, 3, 2, api.ErrForm},
@@ -87,7 +96,11 @@ func TestCheck(t *testing.T) {
 		{"a slope too high", func(s *api.ShSheet) { s.Notes[3].By = span(9001, 0) }, 3, 3, api.ErrRange},
 		{"a slope the wrong way", func(s *api.ShSheet) { s.Notes[3].By = span(1, 0) }, 3, 3, api.ErrArg},
 	}
-	for _, c := range cases {
+}
+
+// P1.1: parts, indices, errors, and which one comes first.
+func TestCheck(t *testing.T) {
+	for _, c := range append(sheetFaults(), noteFaults()...) {
 		s := valley()
 		c.change(&s)
 		if part, at, e := sheet.Check(s); part != c.part || at != c.at || e != c.e {
